@@ -120,6 +120,10 @@ func bitsOf(list any) []uint64 {
 		for _, a := range list {
 			bits = append(bits, math.Float64bits(a.Re), math.Float64bits(a.Im))
 		}
+	case []impl.Harmonic:
+		for _, h := range list {
+			bits = append(bits, bitsOf([]impl.Wave{h.Start, h.Turn})...)
+		}
 	case []impl.Small:
 		for _, a := range list {
 			bits = append(bits, uint64(math.Float32bits(a.Re))<<32|uint64(math.Float32bits(a.Im)))
