@@ -161,9 +161,10 @@ func station(h Hull, s int) []int {
 	return row[:len(row):len(row)]
 }
 
-// ownCopy starts from a cut without room: append has to take new memory.
-func ownCopy(list []int) []int {
-	return append(list[:0:0], list...)
+func ownCopy[T any](list []T) []T {
+	own := make([]T, len(list))
+	copy(own, list)
+	return own
 }
 
 func bothHalves(h Hull, strip int, w int) (int, int) {
