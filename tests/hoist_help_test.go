@@ -78,7 +78,7 @@ func swingOf(s impl.Sway, push int) (impl.Sway, bool) {
 }
 
 func beatsOf(s impl.Sway, pushes []int) (impl.Sway, bool) {
-	ok := len(pushes) <= 40
+	ok := len(pushes) <= 40 && swayOkOf(s)
 	for i := 0; ok && i < len(pushes); i++ {
 		s, ok = swingOf(s, pushes[i])
 	}

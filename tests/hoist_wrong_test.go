@@ -60,7 +60,7 @@ func TestSwaysOfGreatNumbers(t *testing.T) {
 						checkNoSwing(t, s, push)
 					}
 				}
-				for _, pushes := range [][]int{{n, m}, {0, k, 0}, {1, -1, n}} {
+				for _, pushes := range [][]int{nil, {n, m}, {0, k, 0}, {1, -1, n}} {
 					if want, ok := beatsOf(s, pushes); ok {
 						checkBeats(t, s, pushes, want)
 					} else {
@@ -135,7 +135,7 @@ func winchesOfAllKinds() []winch {
 		all = append(all, winch{drawnSway(d), pushes, d.between(-5000, 5000) * 2, d.between(1, 500) * 2, h, drawnSignals(d, h)})
 	}
 	for _, s := range wrongSways() {
-		all = append(all, winch{s, []int{2, 4}, 8, 2, hoistAt(0, 15), givenAll(1, 7)})
+		all = append(all, winch{s, []int{2, 4}, 8, 2, hoistAt(0, 15), givenAll(1, 7)}, winch{s: s})
 	}
 	for _, h := range wrongHoists() {
 		all = append(all, winch{hanging(0), []int{2, 3}, 8, 3, h, givenAll(4, 5, 3)})

@@ -193,14 +193,30 @@ func TestBeatsThatGoBeyondOnTheWay(t *testing.T) {
 	checkBeats(t, sway(0, 0, -1000000), []int{0, -1, 0}, sway(-1, 999999, 0))
 }
 
-// With no push there is none that is not so, so the sway comes back whatever it is.
+// A sway that is not so has one answer, with no push as with some.
 func TestBeatsOfSwaysThatAreNotSo(t *testing.T) {
 	for _, s := range wrongSways() {
+		checkNoBeats(t, s, nil)
+		checkNoBeats(t, s, []int{})
 		checkNoBeats(t, s, []int{0})
 		checkNoBeats(t, s, []int{-1, 1})
 		checkNoBeats(t, s, make([]int, 40))
 		checkNoBeats(t, s, make([]int, 41))
-		checkBeats(t, s, nil, s)
+	}
+}
+
+// With no push nothing moves: at each bound the sway comes back, and one beyond it,
+// up or down, there is none.
+func TestBeatsOfNoPushAtEachBound(t *testing.T) {
+	for _, side := range []int{-1, 1} {
+		for _, unit := range []impl.Sway{sway(side, 0, 0), sway(0, side, 0), sway(0, 0, side)} {
+			at := sway(unit.At*1000000, unit.Off*1000000, unit.Slip*1000000)
+			beyond := sway(unit.At*1000001, unit.Off*1000001, unit.Slip*1000001)
+			for _, none := range [][]int{nil, {}, make([]int, 0, 4)} {
+				checkBeats(t, at, none, at)
+				checkNoBeats(t, beyond, none)
+			}
+		}
 	}
 }
 
